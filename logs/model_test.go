@@ -53,12 +53,19 @@ func mayBegin(s string) bool {
 	return false
 }
 
-// wordAhead is where the word begins that ends at this place.
-func wordAhead(s string, at int) int {
-	for at > 0 && strings.Contains("abcdefghijklmnopqrstuvwxyz0123456789-_", s[at-1:at]) {
-		at--
+// wordSigns are the bytes that words have.
+const wordSigns = "abcdefghijklmnopqrstuvwxyz0123456789-_"
+
+// wordAround is where the word begins that stands at this place or ends there, and where it ends.
+func wordAround(s string, at int) (int, int) {
+	begin, end := at, at
+	for begin > 0 && strings.Contains(wordSigns, s[begin-1:begin]) {
+		begin--
 	}
-	return at
+	for end < len(s) && strings.Contains(wordSigns, s[end:end+1]) {
+		end++
+	}
+	return begin, end
 }
 
 // place is where a text that is no line's is wrong.
@@ -67,10 +74,13 @@ func place(s string) int {
 	for at < len(s) && mayBegin(s[:at+1]) {
 		at++
 	}
+	begin, end := wordAround(s, at)
+	if mayBegin(s[:begin]+"qz=") && begin < end && !mayBegin(s[:end]+"=") { // a key that may not be, whatever comes behind
+		return begin
+	}
 	if at == len(s) {
 		return at
 	}
-	begin := wordAhead(s, at)
 	slash := strings.LastIndexByte(s[:at], '\\')
 	hex := regexp.MustCompile(`^\\x[0-9a-f][0-9a-f]`)
 	switch {
@@ -78,12 +88,7 @@ func place(s string) int {
 		return slash
 	case slash >= 0 && at == slash+2 && s[slash+1] == 'x' && strings.Contains("23456", s[at:at+1]): // whatever comes behind
 		return at + 1
-	case strings.Contains("abcdefghijklmnopqrstuvwxyz0123456789-_", s[at:at+1]) && at-begin == 32: // a word too long
-		return begin
-	case s[at] == '=' && begin < at: // a key that may not be, or no key at all
-		if !mayBegin(s[:begin] + "qz=") {
-			return at
-		}
+	case at < end && at-begin == 32: // an event too long
 		return begin
 	case s[at] == ' ' && isLine(s[:at]): // a pair too many
 		return at + 1

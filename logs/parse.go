@@ -78,11 +78,11 @@ func (r *reader) key(ahead []api.Pair) string {
 		r.fail(begin)
 	}
 	key := r.word()
-	r.literal("=")
-	// Not until its sign is there is the key whole: t may become to.
+	// Ahead of the sign: a key that may not be is wrong whatever stands behind it.
 	if !isKey(key, ahead) {
 		r.fail(begin)
 	}
+	r.literal("=")
 	return key
 }
 

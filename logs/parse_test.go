@@ -64,7 +64,7 @@ func TestParseLines(t *testing.T) {
 	}
 }
 
-// A text that is cut off is wrong at its end, wherever it is cut; but where it is a line already.
+// A text that is cut off is wrong at its end, wherever it is cut; but where it is a line already, or a key is left that may not be.
 func TestParseCutOff(t *testing.T) {
 	whole := []string{
 		`t=12 ev=accept src=3 host="a\"b\x01"`,
@@ -83,9 +83,16 @@ func TestParseCutOff(t *testing.T) {
 		lines[whole[1][:strings.Index(whole[1], "1844")+d+1]] = true
 	}
 	lines[whole[1][:strings.Index(whole[1], " k-_9")]] = true
+	begins := map[string]int{}
+	for next, left := range map[string]string{" t1": " t", " evx": " ev", " kk": " k", " k-_9": " k"} {
+		at := strings.Index(whole[1], next)
+		begins[whole[1][:at]+left] = at + 1
+	}
 	for _, s := range whole {
 		for i := range len(s) {
-			if !lines[s[:i]] {
+			if at, left := begins[s[:i]]; left {
+				stops(t, s[:i], at)
+			} else if !lines[s[:i]] {
 				stops(t, s[:i], i)
 			} else if _, at, e := logs.Parse(s[:i]); at != 0 || e != api.OK {
 				t.Errorf("%q: error %d at %d", s[:i], e, at)
@@ -219,11 +226,38 @@ func TestParseKeys(t *testing.T) {
 	stops(t, `t=1 ev=a k=2 k=2`, 13)
 	stops(t, `t=1 ev=a k="" m=5 k=2 m=2`, 18)
 	reads(t, `t=1 ev=a a=2 tt=3 e=4 eve=5`, line(num("a", 2), num("tt", 3), num("e", 4), num("eve", 5)))
-	// Not until its = is there is it known that the key is no longer one.
-	stops(t, `t=1 ev=a t`, 10)
-	stops(t, `t=1 ev=a ev`, 11)
-	stops(t, `t=1 ev=a k=2 k`, 14)
-	stops(t, `t=1 ev=a k=2 k!`, 14)
+}
+
+// A key that may not be is wrong where it begins, whatever stands behind it; of one that may be, what stands behind it.
+func TestParseKeysWhateverIsBehind(t *testing.T) {
+	long := strings.Repeat("k", 32)
+	bad := map[string]int{
+		`t=1 ev=a t`:                              9,
+		`t=1 ev=a ev`:                             9,
+		`t=1 ev=a k=2 t`:                          13,
+		`t=1 ev=a k=2 ev`:                         13,
+		`t=1 ev=a k=2 k`:                          13,
+		`t=1 ev=a k="" k`:                         14,
+		`t=1 ev=a k="" m=5 k`:                     18,
+		`t=1 ev=a ` + long + `=1 ` + long:         44,
+		`t=1 ev=a k=1 ` + long + `=1 m=2 ` + long: 52,
+	}
+	for s, at := range bad {
+		stops(t, s, at)
+		for c := range 256 {
+			b := string([]byte{byte(c)})
+			if !strings.Contains("abcdefghijklmnopqrstuvwxyz0123456789-_", b) {
+				stops(t, s+b, at)
+				stops(t, s+b+"=1", at)
+				stops(t, s+b+"x=1", at)
+			}
+		}
+	}
+	for _, s := range []string{`t=1 ev=a te`, `t=1 ev=a eve`, `t=1 ev=a k=2 kk`, `t=1 ev=a k=2 k-`, `t=1 ev=a tt=2 e`, `t=1 ev=k k`} {
+		for _, end := range []string{"", " ", " x=1", "\"", ":", "\x00"} {
+			stops(t, s+end, len(s))
+		}
+	}
 }
 
 func TestParsePairs(t *testing.T) {
