@@ -10,7 +10,7 @@ import (
 	"drawbridge/chacha"
 )
 
-// ChaCha20-Poly1305 lets who has two keys make bytes that both of them open. Such a ticket tells which key counts: the first one.
+// ChaCha20-Poly1305 lets who has two keys make bytes that both of them open. Such a ticket tells which key counts: the first one that finds a session in them.
 
 // bothNonce was looked for: by it the streams of both keys differ just so that one text has the suite 1301 where the other one has 1303, and both have secrets of 32 bytes.
 const bothNonce = 7573309
@@ -107,8 +107,8 @@ func alike(t *testing.T, one, two opener, locked []byte) []byte {
 	return nil
 }
 
-// both are two keys, and a ticket that both open: the second one's session, and, as its length of a protocol is right or not, the first one's, or no session.
-func both(t *testing.T, right bool) (one, two api.TicketKey, first, second api.Session, ticket []byte) {
+// both are two keys, and a ticket that both open: the second one's session, and the first one's; if the length of that one's protocol is turned, it is no session.
+func both(t *testing.T, turned byte) (one, two api.TicketKey, first, second api.Session, ticket []byte) {
 	t.Helper()
 	var nonce [12]byte
 	binary.BigEndian.PutUint64(nonce[4:], bothNonce)
@@ -121,10 +121,7 @@ func both(t *testing.T, right bool) (one, two api.TicketKey, first, second api.S
 	for i := range locked {
 		locked[i] ^= o2.stream[i]
 	}
-	locked[36+firstHost] = o1.stream[36+firstHost] ^ firstProtocol
-	if !right {
-		locked[36+firstHost] ^= 1
-	}
+	locked[36+firstHost] = o1.stream[36+firstHost] ^ firstProtocol ^ turned
 	code := alike(t, o1, o2, locked)
 	first, second = o1.opened(locked, firstHost, firstProtocol), o2.opened(locked, otherHost, otherProtocol)
 	return o1.key, o2.key, first, second, slices.Concat(o1.key.Name[:], nonce[:], locked, code)
@@ -132,7 +129,7 @@ func both(t *testing.T, right bool) (one, two api.TicketKey, first, second api.S
 
 // TestFirstKeyCounts: of two keys that open a ticket, each to a session of its own.
 func TestFirstKeyCounts(t *testing.T) {
-	one, two, first, second, b := both(t, true)
+	one, two, first, second, b := both(t, 0)
 	other := api.TicketKey{Name: one.Name, Key: [32]byte{3}}
 	nobody := api.TicketKey{Name: [4]byte{1}, Key: one.Key}
 	for _, keys := range [][]api.TicketKey{{one}, {one, two}, {other, one, two}, {nobody, one, two}, {one, one, two, other}} {
@@ -143,11 +140,16 @@ func TestFirstKeyCounts(t *testing.T) {
 	}
 }
 
-// TestFirstKeyOpensNoSession: it opens the ticket all the same, and no other one counts.
+// TestFirstKeyOpensNoSession: its lock fits, but it makes no ticket of the bytes (they are too few, too many), and so the next one that does counts.
 func TestFirstKeyOpensNoSession(t *testing.T) {
-	one, two, _, second, b := both(t, false)
-	refusesTicket(t, "no session", []api.TicketKey{one}, b)
-	refusesTicket(t, "no session", []api.TicketKey{one, two}, b)
-	refusesTicket(t, "no session", []api.TicketKey{one, two, one}, b)
-	opens(t, []api.TicketKey{two, one}, b, second)
+	for _, turned := range []byte{1, 8} {
+		one, two, _, second, b := both(t, turned)
+		other := api.TicketKey{Name: one.Name, Key: [32]byte{3}}
+		for _, keys := range [][]api.TicketKey{{one}, {one, one}, {other, one}, {one, other}} {
+			refusesTicket(t, "no session", keys, b)
+		}
+		for _, keys := range [][]api.TicketKey{{two}, {one, two}, {two, one}, {one, two, one}, {other, one, two}, {one, other, one, two}} {
+			opens(t, keys, b, second)
+		}
+	}
 }

@@ -20,7 +20,7 @@ func mayBe(s api.Session) bool {
 		len(s.Host) <= maxHost && len(s.Protocol) <= maxProtocol
 }
 
-// textOf is a session that may be, as bytes; sessionOf what has just these bytes.
+// textOf is a session that may be, as bytes; sessionOf the one that has just these bytes, if there is one.
 func textOf(s api.Session) []byte {
 	var b strings.Builder
 	number, part := digits(&b), counted(&b)
@@ -34,7 +34,7 @@ func textOf(s api.Session) []byte {
 	return []byte(b.String())
 }
 
-func sessionOf(text []byte) (api.Session, api.Errno) {
+func sessionOf(text []byte) (api.Session, bool) {
 	r := &reader{rest: text}
 	s := api.Session{
 		Suite:    api.Suite(r.digits(2)),
@@ -46,7 +46,7 @@ func sessionOf(text []byte) (api.Session, api.Errno) {
 		Add:      uint32(r.digits(4)),
 	}
 	if !r.done() || !mayBe(s) {
-		return api.Session{}, api.ErrTicketOther
+		return api.Session{}, false
 	}
-	return s, api.OK
+	return s, true
 }

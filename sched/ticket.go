@@ -34,9 +34,13 @@ func OpenTicket(keys []api.TicketKey, b []byte) (api.Session, api.Errno) {
 		if !called(k, name) {
 			continue
 		}
-		// What the first one opens is its ticket, or nobody's: a key behind it is not asked any more.
-		if text, e := suite.Open(lockedBy, k.Key[:], nonce, name[:], locked); e == api.OK {
-			return sessionOf(text)
+		text, e := suite.Open(lockedBy, k.Key[:], nonce, name[:], locked)
+		if e != api.OK {
+			continue
+		}
+		// A lock may fit by chance or by design: only a text that SealTicket writes makes it this key's ticket.
+		if s, is := sessionOf(text); is {
+			return s, api.OK
 		}
 	}
 	return api.Session{}, api.ErrTicketOther
